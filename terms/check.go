@@ -32,7 +32,7 @@ func (t *tree) fault(at int) api.Errno {
 		return api.ErrTermsLabel
 	case (n.Op == api.TBreak || n.Op == api.TContinue) && t.loop(at, n.Name) == 0:
 		return api.ErrTermsLabel
-	case shapes[n.Op].place == anExpression && !t.isWanted(at):
+	case shapeOf(n.Op).place == anExpression && !t.isWanted(at):
 		return api.ErrTermsKind
 	}
 	return api.OK

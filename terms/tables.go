@@ -129,28 +129,45 @@ type shape struct {
 	naming      naming
 }
 
-// shapes has the row of each Op at its number.
-var shapes = [...]shape{
-	api.TRules:    {aText, "r", 1, math.MaxUint64, nameless},
-	api.TOn:       {aRule, "b", 0, api.EvExpire, nameless},
-	api.TBlock:    {aBlock, "s", 0, math.MaxUint64, nameless},
-	api.TLet:      {aStatement, "e", 0, 0, named},
-	api.TSet:      {aStatement, "e", 0, 0, named},
-	api.TIf:       {aStatement, "ebb", 0, 0, nameless},
-	api.TWhile:    {aStatement, "eb", 0, 0, mayBeNamed},
-	api.TBreak:    {aStatement, "", 0, 0, mayBeNamed},
-	api.TContinue: {aStatement, "", 0, 0, mayBeNamed},
-	api.TRequire:  {aStatement, "e", 1, api.MaxTermsFail, nameless},
-	api.TPay:      {aStatement, "ee", 0, 0, nameless},
-	api.TFail:     {aStatement, "", 1, api.MaxTermsFail, nameless},
-	api.TDone:     {aStatement, "", 0, 0, nameless},
-	api.TNum:      {anExpression, "", 0, math.MaxUint64, nameless},
-	api.TTrue:     {anExpression, "", 0, 0, nameless},
-	api.TFalse:    {anExpression, "", 0, 0, nameless},
-	api.TVar:      {anExpression, "", 0, 0, named},
-	api.TNot:      {anExpression, "e", 0, 0, nameless},
-	api.TBin:      {anExpression, "ee", 0, api.BinMod, nameless},
-	api.TCall:     {anExpression, "eee", 0, api.CallShare, nameless},
+// shapeOf gives the row of an Op; what is no Op has one that may stand nowhere. A function, as a call that reads terms and runs them reaches as many tables as it may.
+func shapeOf(op api.TermsOp) shape {
+	switch op {
+	case api.TRules:
+		return shape{aText, "r", 1, math.MaxUint64, nameless}
+	case api.TOn:
+		return shape{aRule, "b", 0, api.EvExpire, nameless}
+	case api.TBlock:
+		return shape{aBlock, "s", 0, math.MaxUint64, nameless}
+	case api.TLet, api.TSet:
+		return shape{aStatement, "e", 0, 0, named}
+	case api.TIf:
+		return shape{aStatement, "ebb", 0, 0, nameless}
+	case api.TWhile:
+		return shape{aStatement, "eb", 0, 0, mayBeNamed}
+	case api.TBreak, api.TContinue:
+		return shape{aStatement, "", 0, 0, mayBeNamed}
+	case api.TRequire:
+		return shape{aStatement, "e", 1, api.MaxTermsFail, nameless}
+	case api.TPay:
+		return shape{aStatement, "ee", 0, 0, nameless}
+	case api.TFail:
+		return shape{aStatement, "", 1, api.MaxTermsFail, nameless}
+	case api.TDone:
+		return shape{aStatement, "", 0, 0, nameless}
+	case api.TNum:
+		return shape{anExpression, "", 0, math.MaxUint64, nameless}
+	case api.TTrue, api.TFalse:
+		return shape{anExpression, "", 0, 0, nameless}
+	case api.TVar:
+		return shape{anExpression, "", 0, 0, named}
+	case api.TNot:
+		return shape{anExpression, "e", 0, 0, nameless}
+	case api.TBin:
+		return shape{anExpression, "ee", 0, api.BinMod, nameless}
+	case api.TCall:
+		return shape{anExpression, "eee", 0, api.CallShare, nameless}
+	}
+	return shape{}
 }
 
 // isKeyword tells whether a word is one of the language's own.

@@ -45,10 +45,10 @@ func (g *growth) ended() bool { return len(g.nodes) > 0 && len(g.open) == 0 }
 
 // fits tells whether a node may be the next one.
 func (g *growth) fits(n api.TermsNode) bool {
-	if g.ended() || len(g.open) >= api.MaxTermsDepth || n.Op < 0 || int(n.Op) >= len(shapes) {
+	if g.ended() || len(g.open) >= api.MaxTermsDepth {
 		return false
 	}
-	s := shapes[n.Op]
+	s := shapeOf(n.Op)
 	return s.place == g.place() && s.least <= n.N && n.N <= s.most && isNamed(n.Name, s.naming)
 }
 
@@ -66,7 +66,7 @@ func (g *growth) place() byte {
 		return aText
 	}
 	u := g.open[len(g.open)-1]
-	parts := shapes[g.nodes[u.at].Op].parts
+	parts := shapeOf(g.nodes[u.at].Op).parts
 	return parts[min(u.come, uint64(len(parts)-1))]
 }
 
@@ -103,7 +103,7 @@ func partCount(n api.TermsNode) uint64 {
 	case n.Op == api.TCall && n.N != api.CallShare:
 		return 2
 	}
-	return uint64(len(shapes[n.Op].parts))
+	return uint64(len(shapeOf(n.Op).parts))
 }
 
 // parts goes through the numbers of the nodes that belong to this one, in order.
