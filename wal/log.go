@@ -26,13 +26,19 @@ func (l *Log) closed() api.Errno {
 	return api.OK
 }
 
-// refused tells of a write that was refused. The dead disk breaks the log for good: what the disk has of it, nobody knows until it is opened anew.
-func (l *Log) refused(why error) error {
+// writeFault tells of a write that was refused; of the dead disk by the number that the call has for it.
+func writeFault(why error, dead api.Errno) error {
 	if errors.Is(why, api.ErrDiskDead) {
-		l.broken = true
-		return refusal(0, api.ErrWalDead)
+		why = dead
 	}
 	return refusal(0, why)
+}
+
+// refused tells of a write that was refused. The dead disk breaks the log for good: what the disk has of it, nobody knows until it is opened anew.
+func (l *Log) refused(why error) error {
+	err := writeFault(why, api.ErrWalDead)
+	l.broken = errors.Is(err, api.ErrWalDead)
+	return err
 }
 
 // Append adds a body, and tells its place (P8.8).

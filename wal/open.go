@@ -16,7 +16,7 @@ func Open(d *Disk) (l *Log, bodies [][]byte, err error) {
 	}
 	defer func() {
 		if why, gaveUp := recover().(error); gaveUp {
-			l, bodies, err = nil, nil, refusal(0, why)
+			l, bodies, err = nil, nil, writeFault(why, api.ErrDiskDead)
 		}
 	}()
 	file, bodies, good := d.current()
