@@ -41,13 +41,21 @@ func Header(file uint64, base int) ([]byte, error) {
 
 // Frame gives a body as it lies in a segment (P8.5).
 func Frame(index int, body []byte) ([]byte, error) {
-	switch {
-	case index < 0 || index > maxIndex:
-		return nil, refusal(0, api.ErrArg)
-	case len(body) > api.MaxBody:
-		return nil, refusal(0, api.ErrWalLong)
+	if why := noFrame(index, uint64(len(body))); why != api.OK {
+		return nil, refusal(0, why)
 	}
 	return appendFrame(make([]byte, 0, frameOver+len(body)), index, body), nil
+}
+
+// noFrame tells why there is no frame with that index and a body of that size, or OK. Who writes and who reads ask it alike, so that nothing is read that can't be written.
+func noFrame(index int, size uint64) api.Errno {
+	switch {
+	case index < 0 || index > maxIndex:
+		return api.ErrArg
+	case size > api.MaxBody:
+		return api.ErrWalLong
+	}
+	return api.OK
 }
 
 // segment gives the bytes of a new segment with that base, all in one piece.
@@ -80,11 +88,11 @@ func Scan(file uint64, data []byte) (base int, bodies [][]byte, good int, code a
 	if !right {
 		return 0, nil, 0, api.ErrWalCorrupt
 	}
-	bodies, good = wholeFrames(data)
+	bodies, size := wholeFrames(0, data[headerSize:])
 	if len(bodies) < base {
 		return 0, nil, 0, api.ErrWalCorrupt
 	}
-	return base, bodies, good, api.OK
+	return base, bodies, headerSize + size, api.OK
 }
 
 // baseOf tells how many bodies are the base, if the bytes begin with a right header of that file.
@@ -97,9 +105,8 @@ func baseOf(file uint64, data []byte) (base int, right bool) {
 	return base, err == nil && bytes.Equal(header, data[:headerSize])
 }
 
-// wholeFrames gives the bodies of the whole frames behind a right header, and where the last of them ends.
-func wholeFrames(data []byte) (bodies [][]byte, end int) {
-	end = headerSize
+// wholeFrames gives the bodies of the whole frames that bytes begin with, the first of them at that index, and how many bytes these frames have.
+func wholeFrames(index int, data []byte) (bodies [][]byte, end int) {
 frames:
 	for {
 		rest := data[end:]
@@ -108,12 +115,12 @@ frames:
 			break frames
 		case !summed(rest[:atHeadSum], rest[atHeadSum:frameHead]):
 			break frames
-		case high(rest[atIndex:atHeadSum]) != uint64(len(bodies)):
+		case high(rest[atIndex:atHeadSum]) != uint64(index):
 			break frames
 		}
 		size := high(rest[:atIndex])
 		switch {
-		case size > api.MaxBody:
+		case noFrame(index, size) != api.OK:
 			break frames
 		case size > uint64(len(rest)-frameOver):
 			break frames
@@ -124,6 +131,7 @@ frames:
 		}
 		bodies = append(bodies, copied(body))
 		end += frameOver + int(size)
+		index++
 	}
 	return bodies, end
 }
